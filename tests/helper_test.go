@@ -61,6 +61,16 @@ func (d *dice) below(n int) int {
 	return int(uint64(*d)>>33) % n
 }
 
+// brokenTexts returns a text without one byte, with one of the signs more, and with one in place of a byte.
+func (d *dice) brokenTexts(s string, signs string) []string {
+	at := d.below(len(s))
+	return []string{
+		s[:at] + s[at+1:],
+		s[:at] + signs[d.below(len(signs)):][:1] + s[at:],
+		s[:at] + signs[d.below(len(signs)):][:1] + s[at+1:],
+	}
+}
+
 // expr returns an expression of at most n nodes, with nodes that are used more than once, equal nodes and constants.
 func (d *dice) expr(n int) []node {
 	var e []node

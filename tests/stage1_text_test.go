@@ -130,13 +130,7 @@ func TestTextsAndTreesGoTogether(t *testing.T) {
 // checkBrokenText changes one byte: what is parsed all the same has to have just that text.
 func checkBrokenText(t *testing.T, d *dice, s string) {
 	t.Helper()
-	at := d.below(len(s))
-	signs := "x0123456789(),adnotegmul "
-	for _, broken := range []string{
-		s[:at] + s[at+1:],
-		s[:at] + signs[d.below(len(signs)):][:1] + s[at:],
-		s[:at] + signs[d.below(len(signs)):][:1] + s[at+1:],
-	} {
+	for _, broken := range d.brokenTexts(s, "x0123456789(),adnotegmul ") {
 		e, ok := impl.ParseExpr(broken)
 		if !ok {
 			if len(e) != 0 {

@@ -171,6 +171,16 @@ func overwrite(results []any) {
 				list[i] = node{Op: "other", A: -9}
 			}
 			list = append(list, node{Op: "other"}, node{Op: "other"})
+		case []instr:
+			for i := range list {
+				list[i] = instr{Op: "other", A: -9}
+			}
+			list = append(list, instr{Op: "other"}, instr{Op: "other"})
+		case [][]int:
+			for i := range list {
+				overwrite([]any{list[i]})
+				list[i] = nil
+			}
 		}
 	}
 }
