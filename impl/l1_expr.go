@@ -49,7 +49,7 @@ func ValuesOf(e []Node, x0 int, x1 int) ([]int, bool) {
 		return nil, false
 	}
 	values := make([]int, len(e))
-	fillValues(values, e, x0, x1)
+	fillValues(values, e, 0, x0, x1)
 	return values, true
 }
 
@@ -62,7 +62,7 @@ func TableOf(e []Node) ([]int, bool) {
 	values := make([]int, len(e))
 	for x0 := range wordCount {
 		for x1 := range wordCount {
-			fillValues(values, e, x0, x1)
+			fillValues(values, e, 0, x0, x1)
 			table = append(table, values[len(e)-1])
 		}
 	}
@@ -297,9 +297,10 @@ func usesOf(e []Node) []int {
 	return uses
 }
 
-// fillValues keeps the values of all nodes of an expression in values, so that one list serves for many inputs.
-func fillValues(values []int, e []Node, x0 int, x1 int) {
-	for i, n := range e {
+// fillValues keeps the values of the nodes from first on in values, where those before stand already, so that one list serves for many inputs.
+func fillValues(values []int, e []Node, first int, x0 int, x1 int) {
+	for i := first; i < len(e); i++ {
+		n := e[i]
 		switch {
 		case n.Op == "const":
 			values[i] = n.Value

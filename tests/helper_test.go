@@ -144,13 +144,23 @@ func bitwise(a int, b int, bit func(p int, q int) bool) int {
 	return value
 }
 
+func powerOfTwo(n int) int {
+	power := 1
+	for range n {
+		power *= 2
+	}
+	return power
+}
+
+func truth(holds bool) int {
+	if holds {
+		return 1
+	}
+	return 0
+}
+
 // opValue tells the value of an op as the document does, by arithmetic alone.
 func opValue(op string, a int, b int) int {
-	power := 1
-	for range b {
-		power = power * 2 % 4096
-	}
-	truth := map[bool]int{true: 1}
 	switch op {
 	case "not":
 		return 63 - a
@@ -172,16 +182,16 @@ func opValue(op string, a int, b int) int {
 		if b > 5 {
 			return 0
 		}
-		return remainder(a * power)
+		return remainder(a * powerOfTwo(b))
 	case "shr":
 		if b > 5 {
 			return 0
 		}
-		return a / power
+		return a / powerOfTwo(b)
 	case "less":
-		return truth[a < b]
+		return truth(a < b)
 	case "eq":
-		return truth[a == b]
+		return truth(a == b)
 	}
 	panic("no op: " + op)
 }
