@@ -310,6 +310,21 @@ func (d *dice) coverTree(t *testing.T, n int) []node {
 	return d.shuffled(parsed(t, d.coverText(n)))
 }
 
+// spoil changes a field of a node of a tree, mostly so that it is none any more, or leaves the tree as it is.
+func (d *dice) spoil(e []node) {
+	n := &e[d.below(len(e))]
+	switch d.below(6) {
+	case 0:
+		n.Op = append([]string{"", "in", "const", "not", "other"}, twoOperands...)[d.below(15)]
+	case 1:
+		n.A = extremes[d.below(len(extremes))]
+	case 2:
+		n.B = d.below(len(e))
+	case 3:
+		n.Value = extremes[d.below(len(extremes))]
+	}
+}
+
 // numbersText tells numbers with blanks between them.
 func numbersText(list []int) string {
 	var texts []string

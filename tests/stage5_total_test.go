@@ -135,17 +135,7 @@ func TestPromise11TilesOfRandomNodes(t *testing.T) {
 	counts := map[bool]int{}
 	for range 1500 {
 		e := d.coverTree(t, 1+d.below(12))
-		n := &e[d.below(len(e))]
-		switch d.below(6) {
-		case 0:
-			n.Op = append([]string{"", "in", "const", "not", "other"}, twoOperands...)[d.below(15)]
-		case 1:
-			n.A = extremes[d.below(len(extremes))]
-		case 2:
-			n.B = d.below(len(e))
-		case 3:
-			n.Value = extremes[d.below(len(extremes))]
-		}
+		d.spoil(e)
 		before := fmt.Sprint(e)
 		tree, _ := impl.IsTree(e)
 		counts[tree]++
