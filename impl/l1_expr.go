@@ -164,9 +164,7 @@ func ShareExpr(e []Node) ([]Node, bool) {
 	if !IsExpr(e) {
 		return nil, false
 	}
-	w := shareWalk{e: e, places: make([]int, len(e)), seen: make([]bool, len(e))}
-	w.walk(len(e) - 1)
-	return w.built()
+	return shareExpr(e, len(e)-1)
 }
 
 // FoldExpr returns the expression in which each node all of whose operands are constants, also when they have been made so, is a constant, and nodes that are needed no more are left out; the others keep their order.
@@ -376,6 +374,13 @@ func subExpr(e []Node, root int) []Node {
 		}
 	}
 	return w.nodes
+}
+
+// shareExpr shares what the node root needs of nodes that may be more than MaxNodes. It fails if they still are when they are shared.
+func shareExpr(e []Node, root int) ([]Node, bool) {
+	w := shareWalk{e: e, places: make([]int, len(e)), seen: make([]bool, len(e))}
+	w.walk(root)
+	return w.built()
 }
 
 // builder holds the nodes of an expression as it is made by a walk that embeds it.
